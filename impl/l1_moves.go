@@ -21,16 +21,21 @@ const (
 // A placeIndex is the index of a place in the order of places.
 type placeIndex int
 
-// indexOf checks the length first, since strings.Index finds the empty string and "ab" too.
-func indexOf(name string) (placeIndex, bool) {
+// positionIn checks the length first, since strings.Index finds the empty string and "ab" too.
+func positionIn(names string, name string) (int, bool) {
 	if len(name) != 1 {
 		return 0, false
 	}
-	i := strings.Index(placeNames, name)
+	i := strings.Index(names, name)
 	if i < 0 {
 		return 0, false
 	}
-	return placeIndex(i), true
+	return i, true
+}
+
+func indexOf(name string) (placeIndex, bool) {
+	i, ok := positionIn(placeNames, name)
+	return placeIndex(i), ok
 }
 
 func (p placeIndex) name() string { return placeNames[p : p+1] }
@@ -55,13 +60,25 @@ func namesWhere(holds func(placeIndex) bool) string {
 	return names
 }
 
+// namesIn returns those of names that stand in a text, in the order of names.
+func namesIn(names string, text string) string {
+	found := ""
+	for i := range len(names) {
+		if strings.Contains(text, names[i:i+1]) {
+			found += names[i : i+1]
+		}
+	}
+	return found
+}
+
 func isPlace(name string) bool {
 	_, ok := indexOf(name)
 	return ok
 }
 
 func isDigit(name string) bool {
-	return len(name) == 1 && strings.Contains(digitNames, name)
+	_, ok := positionIn(digitNames, name)
+	return ok
 }
 
 func isSource(name string) bool { return isPlace(name) || isDigit(name) }
@@ -233,7 +250,5 @@ func PlacesIn(list []Move) (string, bool) {
 	for _, m := range list {
 		named += m.To + m.From
 	}
-	return namesWhere(func(p placeIndex) bool {
-		return strings.Contains(named, p.name())
-	}), true
+	return namesIn(placeNames, named), true
 }
