@@ -109,6 +109,12 @@ func (t moveTable) with(m Move) (moveTable, bool) {
 	return t, true
 }
 
+func tableAndPlace(list []Move, place string) (moveTable, placeIndex, bool) {
+	table, valid := tableOf(list)
+	p, known := indexOf(place)
+	return table, p, valid && known
+}
+
 func (t moveTable) source(p placeIndex) string {
 	if t[p] == "" {
 		return p.name()
@@ -123,6 +129,11 @@ func (t moveTable) sources() moveTable {
 		t[p] = t.source(p)
 	}
 	return t
+}
+
+// readers returns the places that get the value of another place, or a digit.
+func (t moveTable) readers(from string) string {
+	return namesWhere(func(p placeIndex) bool { return p.name() != from && t.source(p) == from })
 }
 
 // moves yields the moves in the order of their places.
@@ -188,9 +199,8 @@ func ParseMoves(text string) ([]Move, bool) {
 
 // SourceOf returns from where the value of a place comes.
 func SourceOf(list []Move, place string) (string, bool) {
-	table, valid := tableOf(list)
-	p, known := indexOf(place)
-	if !valid || !known {
+	table, p, ok := tableAndPlace(list, place)
+	if !ok {
 		return "", false
 	}
 	return table.source(p), true
@@ -202,9 +212,7 @@ func ReadersOf(list []Move, place string) (string, bool) {
 	if !valid || !isSource(place) {
 		return "", false
 	}
-	return namesWhere(func(p placeIndex) bool {
-		return p.name() != place && table.source(p) == place
-	}), true
+	return table.readers(place), true
 }
 
 // DropIdle returns moves without those that change nothing.
