@@ -131,6 +131,8 @@ func (t moveTable) sources() moveTable {
 	return t
 }
 
+func (t moveTable) same(other moveTable) bool { return t.sources() == other.sources() }
+
 // readers returns the places that get the value of another place, or a digit.
 func (t moveTable) readers(from string) string {
 	return namesWhere(func(p placeIndex) bool { return p.name() != from && t.source(p) == from })
@@ -143,6 +145,14 @@ func (t moveTable) moves(yield func(Move) bool) {
 			return
 		}
 	}
+}
+
+func (t moveTable) list() []Move {
+	var list []Move
+	for m := range t.moves {
+		list = append(list, m)
+	}
+	return list
 }
 
 // partsOf yields what stands between separators; a text without any is one part.
@@ -235,18 +245,14 @@ func SortMoves(list []Move) ([]Move, bool) {
 	if !ok {
 		return nil, false
 	}
-	var sorted []Move
-	for m := range table.moves {
-		sorted = append(sorted, m)
-	}
-	return sorted, true
+	return table.list(), true
 }
 
 // SameMoves reports whether moves do the same.
 func SameMoves(a []Move, b []Move) bool {
 	one, oneValid := tableOf(a)
 	two, twoValid := tableOf(b)
-	return oneValid && twoValid && one.sources() == two.sources()
+	return oneValid && twoValid && one.same(two)
 }
 
 // PlacesIn returns all places of moves.

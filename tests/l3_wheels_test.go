@@ -405,22 +405,35 @@ func TestWheelsOfPlacesThatAreNone(t *testing.T) {
 	}
 }
 
+// roomBehind copies a list into memory that goes on behind it, so that a test can tell whether this was changed.
+func roomBehind(list []impl.Move) ([]impl.Move, []impl.Move) {
+	room := append(slices.Clone(list), movesOf("C=9,B=8,A=7")...)
+	return room[:len(list)], room
+}
+
+// checkOwnMemory checks that the results of functions of a list share no memory with each other or with the list.
+func checkOwnMemory[T comparable](t *testing.T, list []impl.Move, calls map[string]func([]impl.Move) ([]T, bool)) {
+	t.Helper()
+	short, room := roomBehind(list)
+	before := slices.Clone(room)
+	for name, call := range calls {
+		one, _ := call(short)
+		two, _ := call(short)
+		want := slices.Clone(two)
+		clear(one[:cap(one)])
+		if !slices.Equal(two, want) || !slices.Equal(room, before) {
+			t.Errorf("%q: a result of %s shares memory", list, name)
+		}
+	}
+}
+
 func TestWheelsShareNoMemory(t *testing.T) {
 	calls := map[string]func([]impl.Move) ([]string, bool){"RingsOf": impl.RingsOf, "ClosedRings": impl.ClosedRings, "WheelsOf": impl.WheelsOf}
 	lists := append(invalidLists(), movesOf("a=b,b=a,A=B,B=A,d=c,c=d"), movesOf("b=a,c=1"), movesOf("a=a"), moves())
 	for _, list := range lists {
-		room := append(slices.Clone(list), movesOf("C=9,B=8,A=7")...)
+		checkOwnMemory(t, list, calls)
+		short, room := roomBehind(list)
 		before := slices.Clone(room)
-		short := room[:len(list)]
-		for name, call := range calls {
-			one, _ := call(short)
-			two, _ := call(short)
-			want := slices.Clone(two)
-			clear(one[:cap(one)])
-			if !slices.Equal(two, want) {
-				t.Errorf("%q: two results of %s share memory", list, name)
-			}
-		}
 		impl.WheelOf(short, "a")
 		impl.LeavesOf(short)
 		impl.WayBack(short, "a")
