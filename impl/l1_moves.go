@@ -155,6 +155,15 @@ func (t moveTable) list() []Move {
 	return list
 }
 
+// names returns To and From of all moves.
+func (t moveTable) names() string {
+	named := ""
+	for m := range t.moves {
+		named += m.To + m.From
+	}
+	return named
+}
+
 // partsOf yields what stands between separators; a text without any is one part.
 func partsOf(text string, separator string) iter.Seq[string] {
 	return func(yield func(string) bool) {
@@ -257,12 +266,9 @@ func SameMoves(a []Move, b []Move) bool {
 
 // PlacesIn returns all places of moves.
 func PlacesIn(list []Move) (string, bool) {
-	if !MovesValid(list) {
+	table, ok := tableOf(list)
+	if !ok {
 		return "", false
 	}
-	named := ""
-	for _, m := range list {
-		named += m.To + m.From
-	}
-	return namesIn(placeNames, named), true
+	return namesIn(placeNames, table.names()), true
 }

@@ -440,7 +440,7 @@ func TestMovesThatLoseValues(t *testing.T) {
 	}
 }
 
-// allMovesOf returns all moves to three places, where each stays or gets one of some sources.
+// allMovesOf returns all moves to some places, where each stays or gets one of some sources.
 func allMovesOf(places string, sources string) [][]impl.Move {
 	lists := [][]impl.Move{{}}
 	for _, to := range strings.Split(places, "") {
