@@ -12,10 +12,12 @@ type Move struct {
 }
 
 const (
-	placeNames = "abcdefABC"
-	digitNames = "0123456789"
-	placeCount = placeIndex(len(placeNames))
-	textOfNone = "-"
+	registerNames = "abcdef"
+	slotNames     = "ABC"
+	placeNames    = registerNames + slotNames
+	digitNames    = "0123456789"
+	placeCount    = placeIndex(len(placeNames))
+	textOfNone    = "-"
 )
 
 // A placeIndex is the index of a place in the order of places.
